@@ -11,6 +11,7 @@ import (
 	"auklet/ere"
 	"auklet/match"
 	"auklet/nfa"
+	"auklet/samples"
 )
 
 // made is the pattern of a text that is one.
@@ -61,7 +62,7 @@ func TestNewWrong(t *testing.T) {
 
 // P7.1: of all short texts New tells what ere.Parse and nfa.Build tell.
 func TestNewOfAll(t *testing.T) {
-	for _, s := range slices.Concat(joined(5, "a", "(", ")", "|", "*", "[", "]", "{2}", `\`), joined(3, "(a{50}){9}", "a{49}", "a", "*", "(", "|")) {
+	for _, s := range slices.Concat(samples.Joined(5, "a", "(", ")", "|", "*", "[", "]", "{2}", `\`), samples.Joined(3, "(a{50}){9}", "a{49}", "a", "*", "(", "|")) {
 		tree, place, e := ere.Parse(s)
 		if e == api.OK {
 			_, e = nfa.Build(tree)

@@ -11,21 +11,8 @@ import (
 	"auklet/ere"
 	"auklet/match"
 	"auklet/nfa"
+	"auklet/samples"
 )
-
-// joined are all texts of up to most of the pieces.
-func joined(most int, pieces ...string) []string {
-	all := []string{""}
-	if most == 0 {
-		return all
-	}
-	for _, s := range joined(most-1, pieces...) {
-		for _, piece := range pieces {
-			all = append(all, piece+s)
-		}
-	}
-	return all
-}
 
 // reach is to which place a pattern goes from each place of s: the greatest one; -1, if there is none.
 func reach(machine *nfa.Prog, s string) []int {
@@ -89,9 +76,9 @@ func inOrder(t *testing.T, p *match.Pattern, s string) {
 
 // P7.2, P7.3, P7.4, P7.5: all short patterns in all short texts.
 func TestAgainstEnds(t *testing.T) {
-	texts := joined(4, "a", "b")
+	texts := samples.Joined(4, "a", "b")
 	many := 0
-	for _, s := range joined(4, "a", "b", "(", ")", "|", "*", "+", "?", "{2}", "{0,2}", "^", "$") {
+	for _, s := range samples.Joined(4, "a", "b", "(", ")", "|", "*", "+", "?", "{2}", "{0,2}", "^", "$") {
 		tree, _, e := ere.Parse(s)
 		if e != api.OK {
 			continue
@@ -133,22 +120,13 @@ func TestAgainstLibrary(t *testing.T) {
 		}
 		library.Longest()
 		for range 6 {
-			holdLibrary(t, p, library, textOf(numbers))
+			holdLibrary(t, p, library, samples.Bytes(numbers.Intn, "aaabbb.\n", 12))
 		}
 		many++
 	}
 	if many < 5000 {
 		t.Error("too few patterns:", many)
 	}
-}
-
-// textOf is any text of a few letters.
-func textOf(numbers *rand.Rand) string {
-	s := make([]byte, numbers.Intn(13))
-	for i := range s {
-		s[i] = "aaabbb.\n"[numbers.Intn(8)]
-	}
-	return string(s)
 }
 
 // holdLibrary holds a pattern in a text against the library's.
@@ -176,12 +154,9 @@ func TestOfAnyBytes(t *testing.T) {
 	numbers := rand.New(rand.NewSource(77))
 	many := 0
 	for range 20000 {
-		s := make([]byte, 1+numbers.Intn(7))
-		for i := range s {
-			s[i] = "a\xc3\xa9\x00\xff.*|()[]^$-\\{}2,"[numbers.Intn(20)]
-		}
-		tree, place, e := ere.Parse(string(s))
-		p, at, told := match.New(string(s))
+		s := samples.Bytes(numbers.Intn, "a\xc3\xa9\x00\xff.*|()[]^$-\\{}2,", 7)
+		tree, place, e := ere.Parse(s)
+		p, at, told := match.New(s)
 		if e != told || place != at {
 			t.Fatalf("New(%q): %d, %v", s, at, told)
 		}
@@ -190,11 +165,7 @@ func TestOfAnyBytes(t *testing.T) {
 		}
 		machine, _ := nfa.Build(tree)
 		for range 4 {
-			x := make([]byte, numbers.Intn(9))
-			for i := range x {
-				x[i] = "a\xc3\xa9\x00\xff*"[numbers.Intn(6)]
-			}
-			hold(t, p, machine, string(x))
+			hold(t, p, machine, samples.Bytes(numbers.Intn, "a\xc3\xa9\x00\xff*", 8))
 		}
 		many++
 	}

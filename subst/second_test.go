@@ -9,28 +9,15 @@ import (
 
 	"auklet/api"
 	"auklet/match"
+	"auklet/samples"
 	"auklet/subst"
 	"auklet/text"
 )
 
-// joined are all texts of up to most of the pieces.
-func joined(most int, pieces ...string) []string {
-	all := []string{""}
-	if most == 0 {
-		return all
-	}
-	for _, s := range joined(most-1, pieces...) {
-		for _, piece := range pieces {
-			all = append(all, piece+s)
-		}
-	}
-	return all
-}
-
 // patterns are all short patterns that there are.
 func patterns() []*match.Pattern {
 	var l []*match.Pattern
-	for _, s := range joined(3, "a", "b", "(a|ab)", "|", "*", "{2}", "^", "$", `\\`, "&", "[^a]") {
+	for _, s := range samples.Joined(3, "a", "b", "(a|ab)", "|", "*", "{2}", "^", "$", `\\`, "&", "[^a]") {
 		if p, _, e := match.New(s); e == api.OK {
 			l = append(l, p)
 		}
@@ -45,7 +32,7 @@ func wantPut(by, part string) string {
 
 // P8.1: all short texts of what means something, and what does not.
 func TestPutAgainstReplacer(t *testing.T) {
-	for _, by := range joined(7, "&", `\`, "x") {
+	for _, by := range samples.Joined(7, "&", `\`, "x") {
 		for _, part := range []string{"", "y", "&", `\`, `\&`, "&&", "x&"} {
 			if s, want := subst.Put(by, part), wantPut(by, part); s != want {
 				t.Fatalf("Put(%q, %q): %q, not %q", by, part, s, want)
@@ -119,7 +106,7 @@ func itself(t *testing.T, p *match.Pattern, s string) {
 // P8.1, P8.2, P8.5: all short patterns in all short texts.
 func TestAgainstMatch(t *testing.T) {
 	bys := []string{"", "&", "x", "<&>", `\&`, `\\&`, "a", "&&", `b\`}
-	texts := append(joined(3, "a", "b", "&"), joined(2, "a", "é", `\`)...)
+	texts := append(samples.Joined(3, "a", "b", "&"), samples.Joined(2, "a", "é", `\`)...)
 	for _, p := range patterns() {
 		for _, s := range texts {
 			hold(t, p, s, bys)
@@ -130,13 +117,7 @@ func TestAgainstMatch(t *testing.T) {
 // P8.1, P8.2, P8.5: patterns, texts and what is put of any bytes.
 func TestOfAnyBytes(t *testing.T) {
 	numbers := rand.New(rand.NewSource(8))
-	of := func(letters string, most int) string {
-		s := make([]byte, numbers.Intn(most+1))
-		for i := range s {
-			s[i] = letters[numbers.Intn(len(letters))]
-		}
-		return string(s)
-	}
+	of := func(letters string, most int) string { return samples.Bytes(numbers.Intn, letters, most) }
 	many := 0
 	for range 20000 {
 		p, _, e := match.New(of("a\xc3\xa9\x00\xff.*|()[]^$-\\{}2,&", 6))
@@ -161,7 +142,7 @@ func TestAgainstLibrary(t *testing.T) {
 			continue
 		}
 		library.Longest()
-		for _, s := range joined(4, "a", "b") {
+		for _, s := range samples.Joined(4, "a", "b") {
 			for _, by := range []string{"", "x", "<&>", `\&&`} {
 				want := library.ReplaceAllStringFunc(s, func(part string) string { return wantPut(by, part) })
 				if got, n := subst.All(p, by, s); got != want || n != len(library.FindAllString(s, -1)) {
@@ -197,7 +178,7 @@ func wantAt(s, sep string) []string {
 func TestEachByte(t *testing.T) {
 	for i := range 256 {
 		sep := string([]byte{byte(i)})
-		for _, s := range joined(4, "a", sep, "é", " ") {
+		for _, s := range samples.Joined(4, "a", sep, "é", " ") {
 			l, place, e := subst.At(s, sep)
 			if sep == `\` {
 				if len(l) != 0 || place != 1 || e != api.ErrShort {
@@ -217,8 +198,8 @@ func TestEachByte(t *testing.T) {
 
 // P8.3: all short separators: a pattern's, where they are of two bytes or more.
 func TestEachSeparator(t *testing.T) {
-	texts := joined(4, "a", " ", "(", "é")
-	for _, sep := range joined(3, "a", " ", "(", ")", "*", "[", "]", "|", `\`, "é", "^") {
+	texts := samples.Joined(4, "a", " ", "(", "é")
+	for _, sep := range samples.Joined(3, "a", " ", "(", ")", "*", "[", "]", "|", `\`, "é", "^") {
 		p, place, e := match.New(sep)
 		for _, s := range texts {
 			var want []string
@@ -241,7 +222,7 @@ func TestEachSeparator(t *testing.T) {
 // P8.2: of a text that is not empty there is one part more than are found that are not empty.
 func TestSplitMany(t *testing.T) {
 	for _, p := range patterns() {
-		for _, s := range joined(4, "a", "b", "&")[1:] {
+		for _, s := range samples.Joined(4, "a", "b", "&")[1:] {
 			full := 0
 			for _, x := range p.All(s) {
 				full += min(1, x[1]-x[0])
@@ -256,7 +237,7 @@ func TestSplitMany(t *testing.T) {
 // P8.3: Join of texts of all sorts is what the library of Go joins.
 func TestJoinAgainstLibrary(t *testing.T) {
 	for _, sep := range []string{"", "-", "&", `\`, "é", "--"} {
-		for _, s := range joined(5, "a|", "|", "é|", "&|", `\|`) {
+		for _, s := range samples.Joined(5, "a|", "|", "é|", "&|", `\|`) {
 			l := strings.Split(s, "|")
 			if got := subst.Join(l, sep); got != strings.Join(l, sep) {
 				t.Fatalf("Join(%q, %q): %q", l, sep, got)
