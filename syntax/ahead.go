@@ -27,7 +27,7 @@ func (r *reader) isListInBrackets() bool {
 	return r.isSignAt(behind, ";", "}", ">", ">>", ")")
 }
 
-// isAssignment tells whether what comes can be set, and is. (It has to be known ahead: what is set is no level of its own, as an operand would be.)
+// isAssignment tells whether what comes can be set, and is. (Once it was read as an operand, no more would be known of brackets around it, and what stands in brackets can't be set.)
 func (r *reader) isAssignment() bool {
 	if !r.placeComes() {
 		return false

@@ -42,9 +42,10 @@ func (r *reader) listWithin(open, closing string) []api.Node {
 	return l
 }
 
-// expr reads an expression.
+// expr reads an expression, which is one deeper than what it stands in.
 func (r *reader) expr() api.Node {
-	return r.level(r.operandComes(), func() api.Node {
+	return r.deeper(func() api.Node {
+		r.begin(r.operandComes())
 		if r.isAssignment() {
 			return r.assign()
 		}
@@ -160,17 +161,16 @@ func (r *reader) term() api.Node {
 	return r.leftward(api.EBin, func() api.Node { return r.unary() }, "*", "/", "%")
 }
 
-// unary reads an operand, perhaps with signs ahead.
+// unary reads an operand, perhaps with signs ahead, each of which makes what is behind it deeper.
 func (r *reader) unary() api.Node {
-	return r.level(r.operandComes(), func() api.Node {
-		if !r.isSign("!", "-", "+") {
-			return r.post()
-		}
-		n := r.node(api.EUn)
-		n.S = r.take().S
-		n.L = []api.Node{r.unary()}
-		return n
-	})
+	r.begin(r.operandComes())
+	if !r.isSign("!", "-", "+") {
+		return r.post()
+	}
+	n := r.node(api.EUn)
+	n.S = r.take().S
+	n.L = []api.Node{r.deeper(r.unary)}
+	return n
 }
 
 // post reads an operand, perhaps with a step ahead or behind.
@@ -201,7 +201,7 @@ func (r *reader) place() api.Node {
 	n := r.node(api.EField)
 	if r.isSign("$") {
 		r.take()
-		n.L = []api.Node{r.stepped()}
+		n.L = []api.Node{r.deeper(r.stepped)}
 		return n
 	}
 	n.S, n.L = r.variable()

@@ -10,18 +10,13 @@ func (r *reader) program() api.Node {
 			r.take()
 			continue
 		}
-		item := r.level(r.itemComes(), func() api.Node { return r.item() })
+		item := r.item()
 		n.L = append(n.L, item)
 		if !endsWithBlock(item) && !r.is(api.TokLine) && !r.isSign(";") {
 			r.end()
 		}
 	}
 	return n
-}
-
-// itemComes tells whether an item may begin with the token that comes.
-func (r *reader) itemComes() bool {
-	return r.isWord("BEGIN", "END", "function", "persist") || r.isSign("{") || r.operandComes()
 }
 
 // endsWithBlock tells whether an item may stand right ahead of the next one.
@@ -44,7 +39,7 @@ func (r *reader) item() api.Node {
 		if r.take().S == "END" {
 			n.K = api.IEnd
 		}
-		n.L = []api.Node{r.block()}
+		n.L = []api.Node{r.deeper(r.block)}
 	case r.isWord("function"):
 		return r.function()
 	case r.isWord("persist"):
@@ -68,7 +63,7 @@ func (r *reader) function() api.Node {
 		}
 	}, ")")
 	r.lines()
-	n.L = []api.Node{r.block()}
+	n.L = []api.Node{r.deeper(r.block)}
 	return n
 }
 
@@ -89,7 +84,7 @@ func (r *reader) rule() api.Node {
 	}
 	if r.isSign("{") {
 		block = "1"
-		n.L = append(n.L, r.block())
+		n.L = append(n.L, r.deeper(r.block))
 	}
 	n.S = pattern + block
 	return n
@@ -108,17 +103,15 @@ func (r *reader) names() []string {
 
 // block reads a block.
 func (r *reader) block() api.Node {
-	return r.level(r.isSign("{"), func() api.Node {
-		n := r.node(api.SBlock)
-		r.take()
-		for !r.isSign("}") {
-			if r.is(api.TokLine) {
-				r.take()
-			} else {
-				n.L = append(n.L, r.stmt())
-			}
+	n := r.node(api.SBlock)
+	r.sign("{")
+	for !r.isSign("}") {
+		if r.is(api.TokLine) {
+			r.take()
+		} else {
+			n.L = append(n.L, r.stmt())
 		}
-		r.take()
-		return n
-	})
+	}
+	r.take()
+	return n
 }

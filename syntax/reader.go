@@ -12,13 +12,14 @@ type reader struct {
 	closed []int  // of each ( and [, where it is closed; 0, if it is nowhere
 	comma  []bool // of each ( and [, whether a comma stands right within
 	at     int    // the place among words of the token that comes
-	deep   int    // how many rules that count as levels are being read
+	deep   int    // how deep what is being read is
 	to     bool   // whether > says where a print writes to, and compares nothing
 }
 
 // newReader makes a reader of words, and looks ahead at their brackets.
 func newReader(words []api.Token) *reader {
 	r := &reader{words: words, closed: make([]int, len(words)), comma: make([]bool, len(words))}
+	r.deep = -1 // an item is no level: what stands right within it is 0 deep; so is a text that is one expression
 	var open []int
 	for i := range words {
 		last := len(open) - 1
@@ -96,18 +97,22 @@ func (r *reader) lines() {
 	}
 }
 
-// level reads by a rule that counts as a level: a token that begins none is no form, however deep it is.
-func (r *reader) level(begins bool, rule func() api.Node) api.Node {
-	if !begins {
-		r.fail(api.ErrForm)
-	}
-	if r.deep == api.MaxDepth {
-		r.fail(api.ErrLong)
-	}
+// deeper reads by a rule what is one deeper than what it stands in: whether that is too deep is asked by begin, as it is asked of some rules only.
+func (r *reader) deeper(rule func() api.Node) api.Node {
 	r.deep++
 	n := rule()
 	r.deep--
 	return n
+}
+
+// begin makes sure that what is to be read begins with the token that comes, and is not too deep: a token that begins none is no form, however deep it is.
+func (r *reader) begin(comes bool) {
+	if !comes {
+		r.fail(api.ErrForm)
+	}
+	if r.deep > api.MaxDepth {
+		r.fail(api.ErrLong)
+	}
 }
 
 // within reads by a rule what stands between two brackets, where > compares again.

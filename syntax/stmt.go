@@ -2,9 +2,10 @@ package syntax
 
 import "auklet/api"
 
-// stmt reads a statement, and what ends it.
+// stmt reads a statement, which is one deeper than what it stands in, and what ends it.
 func (r *reader) stmt() api.Node {
-	return r.level(r.stmtComes(), func() api.Node {
+	return r.deeper(func() api.Node {
+		r.begin(r.stmtComes())
 		switch {
 		case r.isSign("{"):
 			return r.block()
@@ -96,6 +97,7 @@ func (r *reader) do() api.Node {
 func (r *reader) loop() api.Node {
 	n := r.node(api.SFor)
 	r.take()
+	simple := func() api.Node { return r.deeper(r.simple) }
 	r.within("(", func() {
 		if r.eachComes() {
 			n.K = api.SEach
@@ -104,13 +106,13 @@ func (r *reader) loop() api.Node {
 			n.P = append(n.P, r.name())
 			return
 		}
-		r.part(&n, ";", r.simple)
+		r.part(&n, ";", simple)
 		r.sign(";")
 		r.lines()
 		r.part(&n, ";", r.expr)
 		r.sign(";")
 		r.lines()
-		r.part(&n, ")", r.simple)
+		r.part(&n, ")", simple)
 	}, ")")
 	n.L = append(n.L, r.body())
 	return n
@@ -174,7 +176,7 @@ func (r *reader) print() api.Node {
 	}
 	if r.isSign(">", ">>") {
 		n.S = r.take().S
-		n.L = append(n.L, r.cat())
+		n.L = append(n.L, r.deeper(r.cat))
 	}
 	return n
 }

@@ -288,7 +288,7 @@ func TestPlaces(t *testing.T) {
 // P12.3: what can't be read as tokens is told as it is, ahead of all else.
 func TestTokens(t *testing.T) {
 	for _, x := range []wrong{
-		{"@", 0, api.ErrForm}, {") @", 2, api.ErrForm}, {"a \"b", 2, api.ErrShort}, {"1 + /b", 4, api.ErrShort}, {") ) " + strings.Repeat("a", 41), 4, api.ErrLong}, {strings.Repeat(";", 3000), 3000, api.ErrLong}, {strings.Repeat(" ", 8001), 0, api.ErrLong}, {"9999999999999999 &", 17, api.ErrForm}, {"sync(1) &", 8, api.ErrForm}, {strings.Repeat("(", 200) + "&", 200, api.ErrForm},
+		{"@", 0, api.ErrForm}, {") @", 2, api.ErrForm}, {"a \"b", 2, api.ErrShort}, {"1 + /b", 4, api.ErrShort}, {") ) " + strings.Repeat("a", 41), 4, api.ErrLong}, {strings.Repeat(";", 3000), 3000, api.ErrLong}, {strings.Repeat(" ", 8001), 0, api.ErrLong}, {"9999999999999999 &", 17, api.ErrForm}, {"sync(1) &", 8, api.ErrForm}, {strings.Repeat("(", 300) + "&", 300, api.ErrForm},
 	} {
 		refused(t, []wrong{x})
 		refusedExpr(t, []wrong{x})
@@ -337,89 +337,6 @@ func TestArguments(t *testing.T) {
 	}
 	refusedExpr(t, []wrong{
 		{"split(1, a[1])", 0, api.ErrForm}, {"split(1, $1)", 0, api.ErrForm}, {"int(int())", 4, api.ErrForm}, {"int(int(), 1)", 4, api.ErrForm}, {"int(int(1), 1)", 0, api.ErrForm}, {"int(1, 2", 8, api.ErrForm}, {"int(1, 2 3 ]", 11, api.ErrForm}, {"sync(1,)", 7, api.ErrForm}, {"sync(1, int())", 8, api.ErrForm}, {"a(int())", 2, api.ErrForm}, {"a[int()]", 2, api.ErrForm}, {"a[int()] = 1", 2, api.ErrForm}, {"$int() = 1", 1, api.ErrForm}, {"(sync(1), 2) in a", 1, api.ErrForm}, {"int ( )", 0, api.ErrForm}, {"a ) int()", 2, api.ErrForm}, {"int() 99999999999999", 0, api.ErrForm}, {"int() int()", 0, api.ErrForm},
-	})
-}
-
-// deep is a text in which a piece stands n times: with most of them it is read; with one more, with two more or many, it is too deep at these places.
-type deep struct {
-	ahead, piece, middle, close, behind string
-	most, one, more                     int
-}
-
-// of is the text with n pieces.
-func (x deep) of(n int) string {
-	return x.ahead + strings.Repeat(x.piece, n) + x.middle + strings.Repeat(x.close, n) + x.behind
-}
-
-// holdDeep holds a reading against rows.
-func holdDeep(t *testing.T, read func(s string) (api.Node, int, api.Errno), rows []deep) {
-	t.Helper()
-	for _, x := range rows {
-		for _, n := range []int{1, x.most - 1, x.most} {
-			if _, at, e := read(x.of(n)); at != 0 || e != api.OK {
-				t.Errorf("%d of %q: %d, %v", n, x.piece, at, e)
-			}
-		}
-		for _, n := range []int{x.most + 1, x.most + 2, x.most + 3, x.most + 60} {
-			want := wrong{x.of(n), x.more, api.ErrLong}
-			if n == x.most+1 {
-				want.at = x.one
-			}
-			node, at, e := read(x.of(n))
-			none(t, strconv.Itoa(n)+" of "+x.piece, want, node, at, e)
-		}
-	}
-}
-
-// P12.3: how deep expressions and signs are within one another: each EXPR and each UNARY counts, and nothing else of them.
-func TestDeepExpressions(t *testing.T) {
-	holdDeep(t, syntax.Expr, []deep{
-		{"", "(", "a", ")", "", 99, 100, 100}, {" ", "(", "a", ")", "", 99, 101, 101}, {"a+", "(", "a", ")", "", 99, 102, 102}, {"!", "(", "a", ")", "", 98, 100, 100},
-		{"", "!", "a", "", "", 198, 199, 199}, {"", "- ", "a", "", "", 198, 398, 398}, {"", "+!", "a", "", "", 99, 199, 199}, {"a*", "!", "a", "", "", 198, 201, 201},
-		{"", "a[", "a", "]", "", 99, 200, 200}, {"", "f(", "a", ")", "", 99, 200, 200}, {"", "length(", "a", ")", "", 99, 700, 700}, {"", "$(", "a", ")", "", 99, 200, 200}, {"", "getline<(", "a", ")", "", 99, 900, 900}, {"", "++a[", "a", "]", "", 99, 400, 400}, {"", "f(a,", "a", ")", "", 99, 398, 398},
-		{"", "a=", "a", "", "", 198, 398, 400}, {"", "a+=", "a", "", "", 198, 597, 600}, {"", "a?a:", "a", "", "", 198, 794, 794}, {"", "a?", "a", ":a", "", 198, 398, 398}, {"", "(", "(a,a)in a", ",a)in a", "", 197, 199, 200}, {"", "(a=", "a", ")", "", 66, 199, 199},
-	})
-	for _, s := range []string{strings.Repeat("$", 2000) + "a", strings.Repeat("getline<", 900) + "a", strings.Repeat("getline a<", 700) + "a", strings.Repeat("a ", 2000), strings.Repeat("a~", 1400) + "a", strings.Repeat("a&&", 1400) + "a", "a" + strings.Repeat(" in a", 1400), strings.Repeat("$", 2000) + "a=1", "f(" + strings.Repeat("a,", 1400) + "a)", "!" + strings.Repeat("$", 1400) + "++a"} {
-		if _, at, e := syntax.Expr(s); at != 0 || e != api.OK {
-			t.Errorf("%.20s..: %d, %v", s, at, e)
-		}
-	}
-}
-
-// P12.3: what is set is an EXPR's, and no UNARY's: what stands within it is less deep than within an operand; so are operands in brackets ahead of in.
-func TestDeepPlaces(t *testing.T) {
-	ahead, behind := strings.Repeat("a[", 99), strings.Repeat("]", 99)
-	for _, s := range []string{
-		ahead + "!a" + behind + "=1", ahead + "!a" + behind + "%=1", "$(" + ahead[2:] + "!a" + behind[1:] + ")=1", "$f(" + ahead[2:] + "!a" + behind[1:] + ")=1", "$++" + ahead + "!a" + behind + "=1", "$getline<" + ahead + "!a" + behind + "=1", "$getline " + ahead + "!a" + behind + "=1", "$length(" + ahead[2:] + "!a" + behind[1:] + ")=1", "(" + ahead[2:] + "!a" + behind[1:] + ",a)in a",
-	} {
-		if _, at, e := syntax.Expr(s); at != 0 || e != api.OK {
-			t.Errorf("%s: %d, %v", s, at, e)
-		}
-	}
-	refusedExpr(t, []wrong{
-		{ahead + "!a" + behind, 199, api.ErrLong}, {ahead + "!a" + behind + "==1", 199, api.ErrLong}, {ahead + "!a" + behind + "++", 199, api.ErrLong}, {ahead + "!a" + behind + " a=1", 199, api.ErrLong}, {ahead + "!!a" + behind + "=1", 200, api.ErrLong}, {"(" + ahead + "a" + behind + "=1)", 199, api.ErrLong}, {"$(" + ahead[2:] + "!a" + behind[1:] + ")", 199, api.ErrLong}, {"(" + ahead[2:] + "!a" + behind[1:] + ")in a", 198, api.ErrLong},
-	})
-}
-
-// P12.3: how deep items, blocks and statements are within one another: each ITEM, BLOCK and STMT counts.
-func TestDeepStatements(t *testing.T) {
-	holdDeep(t, syntax.Parse, []deep{
-		{"", "{", "", "}", "", 100, 100, 100}, {"", "{", ";", "}", "", 99, 100, 100}, {"BEGIN ", "{", "", "}", "", 100, 106, 106}, {"function f()\n", "{\n", "", "}", "", 100, 213, 213}, {"a, b ", "{", "", "}", " c", 100, 105, 105}, {"", "{", "a;", "}", "", 98, 99, 100},
-		{"{", "if(1)", ";", "", "}", 196, 197*5 - 1, 197*5 - 1}, {"{", "if(1);else ", ";", "", "}", 196, 196*11 + 4, 196*11 + 4}, {"{", "while(1)", ";", "", "}", 196, 196*8 + 7, 196*8 + 7}, {"{", "for(;;)", ";", "", "}", 197, 198*7 + 1, 198*7 + 1}, {"{", "for(a in b)", ";", "", "}", 197, 198*11 + 1, 198*11 + 1}, {"{", "do ", ";", "while(a);", "}", 196, 197*3 + 1 + 1 + 6, 198*3 + 1},
-		{"{if(", "(", "a", ")", ")b}", 97, 4 + 98, 4 + 98}, {"{print ", "(", "a", ")", "}", 97, 7 + 98 - 1 + 1, 7 + 98}, {"", "(", "a", ")", "", 98, 99, 99},
-	})
-}
-
-// P12.3: at one token ErrForm is told first, then ErrLong, then ErrOver; an error further left ahead of all of them.
-func TestFirstError(t *testing.T) {
-	most := strings.Repeat("(", 100)
-	refusedExpr(t, []wrong{
-		{most + ")", 100, api.ErrForm}, {most, 100, api.ErrForm}, {most + "\n", 100, api.ErrForm}, {most + "*", 100, api.ErrForm}, {most + "99999999999999", 100, api.ErrLong}, {most + "sync(1)", 100, api.ErrLong}, {most + "(", 100, api.ErrLong}, {most + "!", 100, api.ErrLong}, {most + "getline", 100, api.ErrLong}, {most + "/a/", 100, api.ErrLong}, {most + "\"a\"", 100, api.ErrLong}, {most + "f()", 100, api.ErrLong}, {most + "$", 100, api.ErrLong}, {most + "++", 100, api.ErrLong}, {most + "print", 100, api.ErrForm}, {most + "in", 100, api.ErrForm},
-		{strings.Repeat("!", 199) + ")", 199, api.ErrForm}, {strings.Repeat("!", 199) + "99999999999999", 199, api.ErrLong}, {strings.Repeat("!", 198) + "99999999999999", 198, api.ErrOver}, {"sync(1)" + most + "a", 0, api.ErrForm}, {"99999999999999" + most + "a", 0, api.ErrOver}, {"a)" + most + "a", 1, api.ErrForm}, {most[1:] + "99999999999999)" + most, 99, api.ErrOver},
-	})
-	blocks := strings.Repeat("{", 100)
-	refused(t, []wrong{
-		{blocks + ")", 100, api.ErrForm}, {blocks, 100, api.ErrForm}, {blocks + "else", 100, api.ErrForm}, {blocks + "{", 100, api.ErrLong}, {blocks + ";", 100, api.ErrLong}, {blocks + "\n\n;", 102, api.ErrLong}, {blocks + "print", 100, api.ErrLong}, {blocks + "if", 100, api.ErrLong}, {blocks + "99999999999999", 100, api.ErrLong}, {blocks + "next", 100, api.ErrLong}, {blocks + "in", 100, api.ErrForm}, {blocks + "do", 100, api.ErrLong},
 	})
 }
 
