@@ -43,3 +43,30 @@ func TestBytes(t *testing.T) {
 		t.Error(lengths, letters)
 	}
 }
+
+// Each of what a rule may be comes; rules stand within one another just so deep, but for those of words alone.
+func TestGrammar(t *testing.T) {
+	pick := rand.New(rand.NewSource(2)).Intn
+	g := samples.NewGrammar("\nA : WORD | ( A ) | none | line | question : A\nWORD : x | SIGN\nSIGN : + | -\n")
+	found := map[string]int{}
+	for range 3000 {
+		s := g.Text(pick, "A", 3)
+		found[strings.NewReplacer(" ", "", "\t", "", "\\\n", "").Replace(s)]++
+		if strings.Count(s, "(")+strings.Count(s, ":") > 3 {
+			t.Errorf("%q", s)
+		}
+	}
+	for _, s := range []string{"x", "+", "-", "", "\n", "(x)", "?:-", "?:(+)", "(((x)))", "(((-)))", "(?:?:+)"} {
+		if found[s] == 0 {
+			t.Errorf("%q: never", s)
+		}
+	}
+	for range 100 {
+		if s := g.Text(pick, "A", 0); strings.Trim(s, "x+- \t\\\n") != "" || len(strings.Fields(s)) == 0 {
+			t.Errorf("%q", s)
+		}
+	}
+	if s := g.Text(pick, "word", 9); strings.TrimRight(s, " \t\\\n") != "word" {
+		t.Errorf("%q", s)
+	}
+}

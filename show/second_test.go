@@ -9,6 +9,7 @@ import (
 	"auklet/api"
 	"auklet/dec"
 	"auklet/lex"
+	"auklet/samples"
 	"auklet/show"
 	"auklet/syntax"
 )
@@ -212,7 +213,7 @@ func secondShow(n api.Node, read func(s string) (api.Node, int, api.Errno)) (s s
 	return s, api.OK
 }
 
-// grammar makes random programs: rule by rule, with | between, what it may be; what is no rule is written as it stands, but none, line and question. The first one of each rule ends soon.
+// grammar makes random programs.
 const grammar = `
 PROGRAM : ITEM | ITEM PROGRAM | ITEM PROGRAM
 ITEM : EXPR line | BEGIN BLOCK | END BLOCK | function f( ) BLOCK | function f( NAMES ) NL BLOCK | persist NAMES ; | EXPR , NL EXPR line | EXPR , EXPR BLOCK | EXPR BLOCK | BLOCK | BLOCK
@@ -240,47 +241,10 @@ LEAF : 1 | 0 | .5 | 1.50 | "s\"\n/\q" | "" | /r/ | /[/]/ | NAME | NAME | NAME
 OPERAND : LEAF | LEAF | LEAF | PLACE | ( EXPR ) | ( EXPR ) | f( ) | f( LIST ) | length | length( ) | sprintf( LIST ) | sub( EXPR , EXPR , ( PLACE ) ) | split( EXPR , NAME ) | sync ( ) | getline | getline PLACE | getline < OPERAND | ( getline PLACE < OPERAND )
 `
 
-// rules are the grammar's, each with what it may be.
-func rules() map[string][][]string {
-	made := map[string][][]string{}
-	for _, line := range strings.Split(strings.TrimSpace(grammar), "\n") {
-		rule, is, _ := strings.Cut(line, " : ")
-		for _, one := range strings.Split(" "+is+" ", " | ") {
-			made[rule] = append(made[rule], strings.Fields(one))
-		}
-	}
-	return made
-}
-
-// random is a random text of a rule, which nests its rules up to deep: further within each is the first of what it may be, but for those that end anyway.
-func random(pick func(n int) int, made map[string][][]string, rule string, deep int) string {
-	is := made[rule]
-	if is == nil {
-		switch rule {
-		case "line":
-			return "\n"
-		case "question":
-			return "? "
-		case "none":
-			return ""
-		}
-		return rule + []string{" ", " ", " ", "\t", " \\\n"}[pick(5)]
-	}
-	chosen := is[0]
-	if deep > 0 || rule == "LEAF" || rule == "NAME" {
-		chosen = is[pick(len(is))]
-	}
-	s := ""
-	for _, part := range chosen {
-		s += random(pick, made, part, deep-1)
-	}
-	return s
-}
-
 // readable is a random text of PROGRAM or EXPR that is a program.
-func readable(pick func(n int) int, made map[string][][]string, rule string, deep int) string {
+func readable(pick func(n int) int, made *samples.Grammar, rule string, deep int) string {
 	for {
-		s := random(pick, made, rule, deep)
+		s := made.Text(pick, rule, deep)
 		if _, _, e := syntax.Parse(s); e == api.OK {
 			return s
 		}
@@ -310,7 +274,7 @@ func patternBehind(n api.Node) bool {
 // P13.2 to P13.5: what syntax.Parse tells of random programs has the text that the document says, and it is read as the same, unless that is too long or too deep, or has a / where none may begin a pattern.
 func TestRandomPrograms(t *testing.T) {
 	r := rand.New(rand.NewSource(1305))
-	made := rules()
+	made := samples.NewGrammar(grammar)
 	shown, patterns, long := 0, 0, 0
 	for i := range 10000 {
 		s := readable(r.Intn, made, "PROGRAM", 3+r.Intn(8))
@@ -349,7 +313,7 @@ func TestRandomPrograms(t *testing.T) {
 // P13.2, P13.5: what syntax.Expr tells of random expressions, likewise.
 func TestRandomExpressions(t *testing.T) {
 	r := rand.New(rand.NewSource(1302))
-	made := rules()
+	made := samples.NewGrammar(grammar)
 	shown := 0
 	for range 10000 {
 		s := readable(r.Intn, made, "EXPR", 1+r.Intn(12))
@@ -426,7 +390,7 @@ func spoil(pick func(n int) int, n *api.Node, other api.Node) {
 // P13.4: trees that are changed somewhere have the text that they should have, if they are still read as they are; else none.
 func TestSpoiled(t *testing.T) {
 	r := rand.New(rand.NewSource(1304))
-	made := rules()
+	made := samples.NewGrammar(grammar)
 	shown, refused := 0, 0
 	for range 20000 {
 		write, read, rule := show.Program, syntax.Parse, "PROGRAM"
@@ -458,7 +422,7 @@ func TestSpoiled(t *testing.T) {
 // P13.1: Same and Strip of random trees, and of such as are changed somewhere.
 func TestSameAsTold(t *testing.T) {
 	r := rand.New(rand.NewSource(1301))
-	made := rules()
+	made := samples.NewGrammar(grammar)
 	for range 5000 {
 		n, _, _ := syntax.Parse(readable(r.Intn, made, "PROGRAM", 2+r.Intn(6)))
 		other := copied(n)
