@@ -50,10 +50,13 @@ func (m *maker) stmt(n api.Node) {
 
 // print makes a print or a printf, whose last part is where to, if there is a sign.
 func (m *maker) print(op Op, n api.Node) {
-	m.exprs(n.L)
 	many := len(n.L)
 	if n.S != "" {
-		many--
+		many = max(many-1, 0)
+	}
+	m.exprs(n.L[:many])
+	if n.S != "" {
+		m.expr(part(n, many))
 	}
 	m.put(op, m.text(n.S), many)
 }
